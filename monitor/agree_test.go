@@ -92,6 +92,32 @@ func TestManyRunsSeldomLookedAt(t *testing.T) {
 	}
 }
 
+// Mo2: behind every step every monitor has the same map of each epoch that it has, not
+// only the one with which something was done.
+func TestAllMapsBehindEveryStep(t *testing.T) {
+	t.Parallel()
+	n := numbers(16)
+	for _, size := range sizes {
+		epochs := 0
+		for _, h := range kinds() {
+			w := peopled(t, size)
+			for range 60 * (size + 1) {
+				w.act(n.below, h)
+				for id, x := range w.mons {
+					w.look(id)
+					for epoch := range x.Epoch() + 1 {
+						w.holds(id, epoch)
+					}
+				}
+			}
+			epochs += len(w.changes)
+		}
+		if epochs < 25 {
+			t.Errorf("of %d monitors all runs had %d epochs alone", size, epochs)
+		}
+	}
+}
+
 // Mo2: a long run, in which each one is cut off and crashes many times.
 func TestALongRun(t *testing.T) {
 	t.Parallel()
